@@ -88,6 +88,20 @@ func TestChanceOfSmallLots(t *testing.T) {
 // chosen returns in how many ways k of n things can be chosen.
 func chosen(n, k int) *big.Int { return new(big.Int).Binomial(int64(n), int64(k)) }
 
+// P7.6, R7: what is computed is what the table beside it has, which was filled at the start; none of more things than there are.
+func TestChoose(t *testing.T) {
+	for n, ways := range binomials {
+		for k, want := range ways {
+			if c := choose(n, k); c != want || big.NewInt(int64(c)).Cmp(chosen(n, k)) != 0 {
+				t.Fatal(n, k, c, want)
+			}
+		}
+	}
+	if len(binomials) != 51 || binomials != chooseTable() {
+		t.Error("the table")
+	}
+}
+
 // P7.6, R7: Chance is exact for great lots, too.
 func TestChance(t *testing.T) {
 	for lot := 1; lot <= 50; lot++ {
